@@ -14,7 +14,7 @@ const (
 // noughts: a sector that isn't written.
 const noughts = ""
 
-// Where a sector's parts end: its number, how long its body is; there the body begins.
+// Where a sector's parts begin: its number, how long its body is, the body.
 const (
 	numberAt = 1
 	lengthAt = 5
